@@ -1,0 +1,160 @@
+// Package rules looks at the program's own files: what every layer may lean on, whatever it does.
+package rules
+
+import (
+	"bytes"
+	"go/ast"
+	"go/format"
+	"go/parser"
+	"go/token"
+	"os"
+	"path/filepath"
+	"slices"
+	"strconv"
+	"strings"
+	"testing"
+)
+
+const module = "caduceus/"
+
+// mostLines is how long a function is at most.
+const mostLines = 60
+
+// layers, the lowest first: each leans on lower ones alone.
+var layers = []string{"api", "quic", "name", "value", "schema", "forest", "event", "lex", "filter", "cover", "ring", "wire", "net", "link", "view", "index", "table", "store", "queue", "session", "broker", "model", "hermes", "tale", "audit"}
+
+// library: what the program may take of Go's own.
+var library = []string{"bytes", "cmp", "container/heap", "errors", "iter", "maps", "math", "math/bits", "slices", "sort", "strconv", "strings", "sync", "sync/atomic", "unicode", "unicode/utf8"}
+
+type source struct {
+	layer string
+	path  string
+	text  []byte
+	tree  *ast.File
+	set   *token.FileSet
+}
+
+// sources: the files of all layers, without their tests.
+func sources(t *testing.T) []source {
+	var out []source
+	for _, layer := range layers {
+		paths, err := filepath.Glob(filepath.Join("..", layer, "*"))
+		if err != nil || len(paths) == 0 {
+			t.Fatalf("layer %s has no files", layer)
+		}
+		for _, path := range paths {
+			if strings.HasSuffix(path, "_test.go") {
+				continue
+			}
+			if !strings.HasSuffix(path, ".go") {
+				t.Errorf("%s is no Go file", path)
+				continue
+			}
+			out = append(out, read(t, layer, path))
+		}
+	}
+	return out
+}
+
+func read(t *testing.T, layer, path string) source {
+	text, err := os.ReadFile(path)
+	if err != nil {
+		t.Fatal(err)
+	}
+	set := token.NewFileSet()
+	tree, err := parser.ParseFile(set, path, text, parser.ParseComments)
+	if err != nil {
+		t.Fatal(err)
+	}
+	return source{layer, path, text, tree, set}
+}
+
+func TestImports(t *testing.T) {
+	for _, f := range sources(t) {
+		for _, x := range f.tree.Imports {
+			path, _ := strconv.Unquote(x.Path.Value)
+			if own, ok := strings.CutPrefix(path, module); ok {
+				if at := slices.Index(layers, own); at >= slices.Index(layers, f.layer) {
+					t.Errorf("%s leans on %s, which is no lower layer", f.path, path)
+				}
+			} else if !slices.Contains(library, path) {
+				t.Errorf("%s imports %s", f.path, path)
+			}
+		}
+	}
+}
+
+func TestLayout(t *testing.T) {
+	for _, f := range sources(t) {
+		if out, err := format.Source(f.text); err != nil || !bytes.Equal(out, f.text) {
+			t.Errorf("%s is not of gofmt's layout", f.path)
+		}
+		if bytes.Contains(f.text, []byte("//go:")) {
+			t.Errorf("%s has a //go: line", f.path)
+		}
+		for _, d := range f.tree.Decls {
+			x, ok := d.(*ast.FuncDecl)
+			if !ok {
+				continue
+			}
+			if lines := f.set.Position(x.End()).Line - f.set.Position(x.Pos()).Line + 1; lines > mostLines {
+				t.Errorf("%s: %s has %d lines", f.path, x.Name.Name, lines)
+			}
+		}
+	}
+}
+
+// The ways of layer 1: a switch that falls through.
+func TestQuicFallsThrough(t *testing.T) {
+	if !has(t, "quic", func(n ast.Node, _ *ast.FuncDecl) bool {
+		x, ok := n.(*ast.BranchStmt)
+		return ok && x.Tok == token.FALLTHROUGH
+	}) {
+		t.Errorf("quic has no switch that falls through")
+	}
+}
+
+// The ways of layer 2: a text gone through by its runes.
+func TestNameRangesOverRunes(t *testing.T) {
+	if !has(t, "name", func(n ast.Node, f *ast.FuncDecl) bool {
+		x, ok := n.(*ast.RangeStmt)
+		if !ok {
+			return false
+		}
+		text, ok := x.X.(*ast.Ident)
+		return ok && x.Value != nil && takesText(f, text.Name)
+	}) {
+		t.Errorf("name goes through no text by its runes")
+	}
+}
+
+// has tells whether a function of the layer has such a node.
+func has(t *testing.T, layer string, is func(ast.Node, *ast.FuncDecl) bool) bool {
+	found := false
+	for _, f := range sources(t) {
+		for _, d := range f.tree.Decls {
+			x, ok := d.(*ast.FuncDecl)
+			if !ok || f.layer != layer {
+				continue
+			}
+			ast.Inspect(x, func(n ast.Node) bool {
+				found = found || n != nil && is(n, x)
+				return true
+			})
+		}
+	}
+	return found
+}
+
+// takesText tells whether a function has a parameter of that name that is a string.
+func takesText(f *ast.FuncDecl, name string) bool {
+	for _, p := range f.Type.Params.List {
+		kind, ok := p.Type.(*ast.Ident)
+		for _, n := range p.Names {
+			if ok && kind.Name == "string" && n.Name == name {
+				return true
+			}
+		}
+	}
+	return false
+}
