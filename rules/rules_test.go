@@ -116,7 +116,16 @@ func TestQuicFallsThrough(t *testing.T) {
 
 // The ways of layer 2: a text gone through by its runes.
 func TestNameRangesOverRunes(t *testing.T) {
-	if !has(t, "name", func(n ast.Node, f *ast.FuncDecl) bool {
+	rangesOverRunes(t, "name")
+}
+
+// The ways of layer 3, too.
+func TestValueRangesOverRunes(t *testing.T) {
+	rangesOverRunes(t, "value")
+}
+
+func rangesOverRunes(t *testing.T, layer string) {
+	if !has(t, layer, func(n ast.Node, f *ast.FuncDecl) bool {
 		x, ok := n.(*ast.RangeStmt)
 		if !ok {
 			return false
@@ -124,7 +133,52 @@ func TestNameRangesOverRunes(t *testing.T) {
 		text, ok := x.X.(*ast.Ident)
 		return ok && x.Value != nil && takesText(f, text.Name)
 	}) {
-		t.Errorf("name goes through no text by its runes")
+		t.Errorf("%s goes through no text by its runes", layer)
+	}
+}
+
+// The ways of layer 3: what comes in is told by its type.
+func TestValueTellsByType(t *testing.T) {
+	if !has(t, "value", func(n ast.Node, _ *ast.FuncDecl) bool {
+		_, ok := n.(*ast.TypeSwitchStmt)
+		return ok
+	}) {
+		t.Errorf("value tells nothing by its type")
+	}
+}
+
+// The ways of layer 4: the words of kinds stand in an array by kinds that are counted on.
+func TestSchemaCountsKindsOn(t *testing.T) {
+	var counted, stand bool
+	for _, f := range sources(t) {
+		if f.layer != "schema" {
+			continue
+		}
+		ast.Inspect(f.tree, func(n ast.Node) bool {
+			switch x := n.(type) {
+			case *ast.Ident:
+				counted = counted || x.Name == "iota"
+			case *ast.ArrayType:
+				stand = stand || x.Len != nil
+			}
+			return true
+		})
+	}
+	if !counted || !stand {
+		t.Errorf("schema counts no kinds on (%v), or has no array of their words (%v)", counted, stand)
+	}
+}
+
+// What comes in to a call is not told by its type within the call itself.
+func TestCallsTellNothingByType(t *testing.T) {
+	for _, layer := range layers {
+		if has(t, layer, func(n ast.Node, f *ast.FuncDecl) bool {
+			_, told := n.(*ast.TypeSwitchStmt)
+			_, asserted := n.(*ast.TypeAssertExpr)
+			return f.Name.IsExported() && (told || asserted)
+		}) {
+			t.Errorf("a call of %s has a type switch or an assertion", layer)
+		}
 	}
 }
 
