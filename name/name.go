@@ -2,6 +2,7 @@
 package name
 
 import (
+	"cmp"
 	"strings"
 	"unicode/utf8"
 
@@ -99,13 +100,30 @@ func smalls(s string) []rune {
 
 // Same tells whether two texts are the same, folded.
 func Same(a, b string) bool {
-	return Fold(a) == Fold(b)
+	return a == b || Compare(a, b) == 0
 }
 
 // Compare tells how two texts stand, folded: -1, 0 or 1.
 func Compare(a, b string) int {
-	// Texts of UTF-8 stand byte by byte as they do rune by rune.
+	if utf8.ValidString(a) && utf8.ValidString(b) {
+		return compareRunes(a, b)
+	}
 	return strings.Compare(Fold(a), Fold(b))
+}
+
+// compareRunes folds on the way: names are held against each other too often to write both anew each time.
+func compareRunes(a, b string) int {
+	for _, c := range a {
+		if b == "" {
+			return 1
+		}
+		other, size := utf8.DecodeRuneInString(b)
+		if order := cmp.Compare(Small(c), Small(other)); order != 0 {
+			return order
+		}
+		b = b[size:]
+	}
+	return -min(len(b), 1)
 }
 
 // Parts are a name's parts; none of what is no name.

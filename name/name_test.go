@@ -169,6 +169,24 @@ func TestCompare(t *testing.T) {
 	}
 }
 
+// Promise 2.2: Same and Compare are Fold's, of any two texts.
+func TestCompareIsFolds(t *testing.T) {
+	pieces := []string{"A", "a", "B", "É", "é", "×", "÷", "Ā", "Σ", "ς", "σ", "\u03a2", "Я", "я", "中", "\ufffd", "\U0001F600", "\xff", "\xc3", "-", "."}
+	r := rand.New(rand.NewSource(4))
+	some := func() (s string) {
+		for range r.Intn(4) {
+			s += pieces[r.Intn(len(pieces))]
+		}
+		return s
+	}
+	for range 30000 {
+		a, b := some(), some()
+		if want := strings.Compare(Fold(a), Fold(b)); Compare(a, b) != want || Same(a, b) != (want == 0) {
+			t.Fatalf("%q and %q: Compare %d, Same %v", a, b, Compare(a, b), Same(a, b))
+		}
+	}
+}
+
 // Promise 2.2: Runes.
 func TestRunes(t *testing.T) {
 	for s, want := range map[string]int{"": 0, "a": 1, "éa中": 3, "\ufffd": 1, "\x00": 1, "\U0010ffff": 1, strings.Repeat("é", 1000): 1000} {

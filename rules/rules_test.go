@@ -169,6 +169,18 @@ func TestSchemaCountsKindsOn(t *testing.T) {
 	}
 }
 
+// The ways of layers 5 and 6: loops that a label names, and that are left by it.
+func TestLoopsAreNamed(t *testing.T) {
+	for _, layer := range []string{"forest", "event"} {
+		if !has(t, layer, func(n ast.Node, _ *ast.FuncDecl) bool {
+			x, ok := n.(*ast.BranchStmt)
+			return ok && x.Label != nil && x.Tok != token.GOTO
+		}) {
+			t.Errorf("%s leaves no loop by a label", layer)
+		}
+	}
+}
+
 // What comes in to a call is not told by its type within the call itself.
 func TestCallsTellNothingByType(t *testing.T) {
 	for _, layer := range layers {
