@@ -114,36 +114,50 @@ func TestQuicFallsThrough(t *testing.T) {
 	}
 }
 
-// The ways of layer 2: a text gone through by its runes.
-func TestNameRangesOverRunes(t *testing.T) {
-	rangesOverRunes(t, "name")
-}
-
-// The ways of layer 3, too.
-func TestValueRangesOverRunes(t *testing.T) {
-	rangesOverRunes(t, "value")
-}
-
-func rangesOverRunes(t *testing.T, layer string) {
-	if !has(t, layer, func(n ast.Node, f *ast.FuncDecl) bool {
-		x, ok := n.(*ast.RangeStmt)
-		if !ok {
-			return false
+// The ways of layers 2, 3 and 7: a text gone through by its runes.
+func TestTextsAreGoneThroughByRunes(t *testing.T) {
+	for _, layer := range []string{"name", "value", "lex"} {
+		if !has(t, layer, func(n ast.Node, f *ast.FuncDecl) bool {
+			x, ok := n.(*ast.RangeStmt)
+			if !ok {
+				return false
+			}
+			text, ok := x.X.(*ast.Ident)
+			return ok && x.Value != nil && takesText(f, text.Name)
+		}) {
+			t.Errorf("%s goes through no text by its runes", layer)
 		}
-		text, ok := x.X.(*ast.Ident)
-		return ok && x.Value != nil && takesText(f, text.Name)
-	}) {
-		t.Errorf("%s goes through no text by its runes", layer)
 	}
 }
 
-// The ways of layer 3: what comes in is told by its type.
-func TestValueTellsByType(t *testing.T) {
-	if !has(t, "value", func(n ast.Node, _ *ast.FuncDecl) bool {
-		_, ok := n.(*ast.TypeSwitchStmt)
-		return ok
-	}) {
-		t.Errorf("value tells nothing by its type")
+// The ways of layers 3 and 8: what comes is told by its type.
+func TestTypesTell(t *testing.T) {
+	for _, layer := range []string{"value", "filter"} {
+		if !has(t, layer, func(n ast.Node, _ *ast.FuncDecl) bool {
+			_, ok := n.(*ast.TypeSwitchStmt)
+			return ok
+		}) {
+			t.Errorf("%s tells nothing by its type", layer)
+		}
+	}
+}
+
+// The ways of layer 8: pieces are an interface's values, and asserted.
+func TestFilterAssertsPieces(t *testing.T) {
+	asserted := has(t, "filter", func(n ast.Node, _ *ast.FuncDecl) bool {
+		x, ok := n.(*ast.TypeAssertExpr)
+		return ok && x.Type != nil
+	})
+	stands := false
+	for _, f := range sources(t) {
+		ast.Inspect(f.tree, func(n ast.Node) bool {
+			x, ok := n.(*ast.InterfaceType)
+			stands = stands || ok && f.layer == "filter" && x.Methods.NumFields() > 0
+			return true
+		})
+	}
+	if !asserted || !stands {
+		t.Errorf("filter asserts nothing (%v), or has no interface (%v)", asserted, stands)
 	}
 }
 
