@@ -183,9 +183,9 @@ func TestSchemaCountsKindsOn(t *testing.T) {
 	}
 }
 
-// The ways of layers 5 and 6: loops that a label names, and that are left by it.
+// The ways of layers 5, 6 and 10: loops that a label names, and that are left by it.
 func TestLoopsAreNamed(t *testing.T) {
-	for _, layer := range []string{"forest", "event"} {
+	for _, layer := range []string{"forest", "event", "ring"} {
 		if !has(t, layer, func(n ast.Node, _ *ast.FuncDecl) bool {
 			x, ok := n.(*ast.BranchStmt)
 			return ok && x.Label != nil && x.Tok != token.GOTO
@@ -193,6 +193,34 @@ func TestLoopsAreNamed(t *testing.T) {
 			t.Errorf("%s leaves no loop by a label", layer)
 		}
 	}
+}
+
+// The ways of layer 9: a want is made by methods that are handed on.
+func TestCoverHandsMethodsOn(t *testing.T) {
+	methods := map[string]int{}
+	has(t, "cover", func(n ast.Node, f *ast.FuncDecl) bool {
+		if f.Recv != nil {
+			methods[f.Name.Name]++
+		}
+		return false
+	})
+	if !has(t, "cover", func(n ast.Node, f *ast.FuncDecl) bool {
+		x, ok := n.(*ast.SelectorExpr)
+		return ok && methods[x.Sel.Name] > 0 && !calls(f, x)
+	}) {
+		t.Errorf("cover hands no method on")
+	}
+}
+
+// calls tells whether a function calls what an expression names.
+func calls(f *ast.FuncDecl, what ast.Expr) bool {
+	found := false
+	ast.Inspect(f, func(n ast.Node) bool {
+		x, ok := n.(*ast.CallExpr)
+		found = found || ok && x.Fun == what
+		return true
+	})
+	return found
 }
 
 // What comes in to a call is not told by its type within the call itself.
