@@ -212,6 +212,43 @@ func TestCoverHandsMethodsOn(t *testing.T) {
 	}
 }
 
+// The ways of layers 11 and 12: parts by kinds, and rows by nodes, stand in arrays.
+func TestArraysStand(t *testing.T) {
+	parts := func(x *ast.CompositeLit) bool {
+		kind, ok := x.Type.(*ast.ArrayType)
+		return ok && kind.Len != nil && len(x.Elts) > 0
+	}
+	ofArrays := func(x *ast.ArrayType) bool {
+		inner, ok := x.Elt.(*ast.ArrayType)
+		return ok && x.Len != nil && inner.Len != nil
+	}
+	var byKinds, byNodes bool
+	for _, f := range sources(t) {
+		ast.Inspect(f.tree, func(n ast.Node) bool {
+			switch x := n.(type) {
+			case *ast.CompositeLit:
+				byKinds = byKinds || f.layer == "wire" && parts(x)
+			case *ast.ArrayType:
+				byNodes = byNodes || f.layer == "net" && ofArrays(x)
+			}
+			return true
+		})
+	}
+	if !byKinds || !byNodes {
+		t.Errorf("wire has no array by kinds (%v), or net none of arrays (%v)", byKinds, byNodes)
+	}
+}
+
+// The ways of layer 12: a row is cut with three indices.
+func TestNetCutsRows(t *testing.T) {
+	if !has(t, "net", func(n ast.Node, _ *ast.FuncDecl) bool {
+		x, ok := n.(*ast.SliceExpr)
+		return ok && x.Slice3
+	}) {
+		t.Errorf("net cuts no row with three indices")
+	}
+}
+
 // calls tells whether a function calls what an expression names.
 func calls(f *ast.FuncDecl, what ast.Expr) bool {
 	found := false
