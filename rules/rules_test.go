@@ -249,6 +249,34 @@ func TestNetCutsRows(t *testing.T) {
 	}
 }
 
+// The ways of layer 13: what came early stands in a map, and is deleted from it.
+func TestMapsAreDeletedFrom(t *testing.T) {
+	for _, layer := range []string{"link"} {
+		stands := false
+		for _, f := range sources(t) {
+			ast.Inspect(f.tree, func(n ast.Node) bool {
+				x, ok := n.(*ast.Field)
+				if ok && f.layer == layer {
+					_, ok = x.Type.(*ast.MapType)
+					stands = stands || ok
+				}
+				return true
+			})
+		}
+		deleted := has(t, layer, func(n ast.Node, _ *ast.FuncDecl) bool {
+			x, ok := n.(*ast.CallExpr)
+			if !ok {
+				return false
+			}
+			name, ok := x.Fun.(*ast.Ident)
+			return ok && name.Name == "delete"
+		})
+		if !stands || !deleted {
+			t.Errorf("%s keeps no map (%v), or deletes nothing from it (%v)", layer, stands, deleted)
+		}
+	}
+}
+
 // calls tells whether a function calls what an expression names.
 func calls(f *ast.FuncDecl, what ast.Expr) bool {
 	found := false
