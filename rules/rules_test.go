@@ -9,10 +9,13 @@ import (
 	"go/token"
 	"os"
 	"path/filepath"
+	"reflect"
 	"slices"
 	"strconv"
 	"strings"
 	"testing"
+
+	"caduceus/index"
 )
 
 const module = "caduceus/"
@@ -249,9 +252,52 @@ func TestNetCutsRows(t *testing.T) {
 	}
 }
 
-// The ways of layer 13: what came early stands in a map, and is deleted from it.
+// The ways of layer 14: members that are up are yielded by a function, and gone through by it.
+func TestViewYields(t *testing.T) {
+	yields := map[string]int{}
+	has(t, "view", func(n ast.Node, f *ast.FuncDecl) bool {
+		x, ok := n.(*ast.CallExpr)
+		if ok {
+			name, _ := x.Fun.(*ast.Ident)
+			if name != nil && name.Name == "yield" {
+				yields[f.Name.Name]++
+			}
+		}
+		return false
+	})
+	if !has(t, "view", func(n ast.Node, _ *ast.FuncDecl) bool {
+		x, ok := n.(*ast.RangeStmt)
+		if !ok {
+			return false
+		}
+		call, ok := x.X.(*ast.CallExpr)
+		if !ok {
+			return false
+		}
+		name, ok := call.Fun.(*ast.Ident)
+		return ok && yields[name.Name] > 0
+	}) {
+		t.Errorf("view goes through nothing that a function yields (%v)", yields)
+	}
+}
+
+// The ways of layer 15: predicates stand in a map by name, and in one by name and value, a struct.
+func TestIndexKeepsPredicatesByStructs(t *testing.T) {
+	x := reflect.TypeFor[index.Index]()
+	var kinds []reflect.Kind
+	for i := range x.NumField() {
+		if kind := x.Field(i).Type; kind.Kind() == reflect.Map {
+			kinds = append(kinds, kind.Key().Kind())
+		}
+	}
+	if !slices.Contains(kinds, reflect.String) || !slices.Contains(kinds, reflect.Struct) {
+		t.Errorf("index keeps maps by %v", kinds)
+	}
+}
+
+// The ways of layers 13 and 15: what came early, and predicates, stand in maps, and are deleted from them.
 func TestMapsAreDeletedFrom(t *testing.T) {
-	for _, layer := range []string{"link"} {
+	for _, layer := range []string{"link", "index"} {
 		stands := false
 		for _, f := range sources(t) {
 			ast.Inspect(f.tree, func(n ast.Node) bool {
