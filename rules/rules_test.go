@@ -16,6 +16,8 @@ import (
 	"testing"
 
 	"caduceus/index"
+	"caduceus/store"
+	"caduceus/table"
 )
 
 const module = "caduceus/"
@@ -295,9 +297,9 @@ func TestIndexKeepsPredicatesByStructs(t *testing.T) {
 	}
 }
 
-// The ways of layers 13 and 15: what came early, and predicates, stand in maps, and are deleted from them.
+// The ways of layers 13, 15 and 16: what came early, predicates, and rows stand in maps, and are deleted from them.
 func TestMapsAreDeletedFrom(t *testing.T) {
-	for _, layer := range []string{"link", "index"} {
+	for _, layer := range []string{"link", "index", "table"} {
 		stands := false
 		for _, f := range sources(t) {
 			ast.Inspect(f.tree, func(n ast.Node) bool {
@@ -309,17 +311,40 @@ func TestMapsAreDeletedFrom(t *testing.T) {
 				return true
 			})
 		}
-		deleted := has(t, layer, func(n ast.Node, _ *ast.FuncDecl) bool {
-			x, ok := n.(*ast.CallExpr)
-			if !ok {
-				return false
-			}
-			name, ok := x.Fun.(*ast.Ident)
-			return ok && name.Name == "delete"
-		})
-		if !stands || !deleted {
+		if deleted := hasCall(t, layer, "delete"); !stands || !deleted {
 			t.Errorf("%s keeps no map (%v), or deletes nothing from it (%v)", layer, stands, deleted)
 		}
+	}
+}
+
+// fields are the types of a struct's fields.
+func fields(x reflect.Type) (out []reflect.Type) {
+	for i := range x.NumField() {
+		out = append(out, x.Field(i).Type)
+	}
+	return out
+}
+
+// The ways of layer 16: rows stand in a map of maps, that is cleared.
+func TestTableKeepsMapsOfMaps(t *testing.T) {
+	if !slices.ContainsFunc(fields(reflect.TypeFor[table.Table]()), func(x reflect.Type) bool {
+		return x.Kind() == reflect.Map && x.Elem().Kind() == reflect.Map
+	}) {
+		t.Errorf("table keeps no map of maps")
+	}
+	if !hasCall(t, "table", "clear") {
+		t.Errorf("table clears nothing")
+	}
+}
+
+// The ways of layer 17: a type is changed by a pointer in a map; nodes that are waited for stand in an array of flags.
+func TestStoreKeepsPointersToFlags(t *testing.T) {
+	if !slices.ContainsFunc(fields(reflect.TypeFor[store.Store]()), func(x reflect.Type) bool {
+		return x.Kind() == reflect.Map && x.Elem().Kind() == reflect.Pointer && slices.ContainsFunc(fields(x.Elem().Elem()), func(x reflect.Type) bool {
+			return x.Kind() == reflect.Array && x.Elem().Kind() == reflect.Bool
+		})
+	}) {
+		t.Errorf("store keeps no map of pointers to what has an array of flags")
 	}
 }
 
@@ -345,6 +370,18 @@ func TestCallsTellNothingByType(t *testing.T) {
 			t.Errorf("a call of %s has a type switch or an assertion", layer)
 		}
 	}
+}
+
+// hasCall tells whether a function of the layer calls one of that name.
+func hasCall(t *testing.T, layer, name string) bool {
+	return has(t, layer, func(n ast.Node, _ *ast.FuncDecl) bool {
+		x, ok := n.(*ast.CallExpr)
+		if !ok {
+			return false
+		}
+		what, ok := x.Fun.(*ast.Ident)
+		return ok && what.Name == name
+	})
 }
 
 // has tells whether a function of the layer has such a node.
