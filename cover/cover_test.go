@@ -488,6 +488,7 @@ func TestFew(t *testing.T) {
 		// Merged ones are merged again, also with those ahead of them.
 		{[]string{"a = 1 and b = 1", "a = 2 and b = 1", "a = 1 and b = 2", "a = 2 and b = 2"}, []string{"a in { 1 , 2 } and b in { 1 , 2 }"}},
 		{[]string{"a in {1, 2} and b = 1", "a = 1 and b = 2", "a = 2 and b = 2"}, []string{"a in { 1 , 2 } and b in { 1 , 2 }"}},
+		{[]string{"a in {1, 2} and b = 1", "a in {1, 2} and b = 2 and has c", "a = 1 and b = 2", "a = 2 and b = 2"}, []string{"a in { 1 , 2 } and b in { 1 , 2 }"}},
 		// The first pair alone: by the first one, then by the second one.
 		{[]string{"a = 1 and b = 1", "a = 1 and b = 2", "a = 2 and b = 1"}, []string{"a = 1 and b in { 1 , 2 }", "a = 2 and b = 1"}},
 		{[]string{"a = 1 and b = 1", "a = 2 and b = 1", "a = 1 and b = 2"}, []string{"a in { 1 , 2 } and b = 1", "a = 1 and b = 2"}},
@@ -746,6 +747,30 @@ func TestFewLetBy(t *testing.T) {
 	}
 	if merged < 1000 {
 		t.Errorf("too few were merged: %d", merged)
+	}
+}
+
+// Promise 9.3: merged ones that are merged again with those ahead of them, or cover them, in whichever order all stand.
+func TestFewOfGrids(t *testing.T) {
+	r := rand.New(rand.NewSource(93))
+	for range 60 {
+		var l [][]api.Pred
+		for i := range 27 {
+			f := []api.Pred{pred("a", api.OpEq, num(i%3)), pred("b", api.OpEq, num(i/3%3)), pred("c", api.OpEq, num(i/9))}
+			switch r.Intn(8) {
+			case 0:
+				continue
+			case 1:
+				f = append(f, pred("d", api.OpHas))
+			case 2:
+				f[r.Intn(3)] = pred("a", api.OpIn, nums(r.Intn(3), 1+r.Intn(16))...)
+			}
+			l = append(l, f)
+		}
+		r.Shuffle(len(l), func(i, j int) { l[i], l[j] = l[j], l[i] })
+		if few, want := Few(l), fewByWords(l); !slices.EqualFunc(few, want, filter.Same) {
+			t.Fatalf("Few(%v) =\n%v, want\n%v", l, few, want)
+		}
 	}
 }
 

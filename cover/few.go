@@ -57,14 +57,17 @@ func yieldsToAny(l []asked, at int) bool {
 	return false
 }
 
-// pruneAround prunes filters of which none covers another one, but for the one at that place.
-func pruneAround(l []asked, at int) (stay []asked) {
+// pruneAround prunes filters of which none covers another one, but for the one at that place; and where that place is then.
+func pruneAround(l []asked, at int) (stay []asked, place int) {
 	for i := range l {
+		if i == at {
+			place = len(stay)
+		}
 		if i == at && !yieldsToAny(l, at) || i != at && !yields(l, i, at) {
 			stay = append(stay, l[i])
 		}
 	}
-	return stay
+	return stay, place
 }
 
 // Merge is a filter that lets by what one of two does.
@@ -121,6 +124,10 @@ func together(p, q api.Pred) (l []api.Value, is bool) {
 	if !namesValues(p.Op) || !namesValues(q.Op) || p.L[0].Kind != q.L[0].Kind || !name.Same(p.Name, q.Name) {
 		return nil, false
 	}
+	// None of both filters covers the other one: each predicate has a value that the other one has not.
+	if max(len(p.L), len(q.L)) >= api.MaxIn {
+		return nil, false
+	}
 	l = slices.Concat(p.L, q.L)
 	slices.SortFunc(l, value.Compare)
 	l = slices.Compact(l)
@@ -137,13 +144,15 @@ func namesValues(op int) bool {
 // Few are few filters that let by what one of the many does.
 func Few(l [][]api.Pred) (few [][]api.Pred) {
 	stay := prune(allAsked(l))
-	for {
-		i, j, m, is := firstPair(stay)
+	// Those ahead of this place can be merged with the one that stands there, if at all.
+	for at := 0; at < len(stay); {
+		i, j, m, is := firstPair(stay, at)
 		if !is {
-			break
+			at++
+			continue
 		}
 		stay[i] = asked{f: m, wants: Wants(m)}
-		stay = pruneAround(slices.Delete(stay, j, j+1), i)
+		stay, at = pruneAround(slices.Delete(stay, j, j+1), i)
 	}
 	for _, a := range stay {
 		few = append(few, copied(a.f))
@@ -151,13 +160,16 @@ func Few(l [][]api.Pred) (few [][]api.Pred) {
 	return few
 }
 
-// firstPair is the first two filters that can be merged, and the merged one. They are pruned: none covers another one.
-func firstPair(l []asked) (i, j int, m []api.Pred, is bool) {
-	for i = range l {
-		for j = i + 1; j < len(l); j++ {
-			if m, is = join(l[i].f, l[j].f); is {
-				return i, j, m, true
-			}
+// firstPair is the first two filters, one of them at that place, that can be merged, and the merged one. They are pruned: none covers another one.
+func firstPair(l []asked, at int) (i, j int, m []api.Pred, is bool) {
+	for i = range at {
+		if m, is = join(l[i].f, l[at].f); is {
+			return i, at, m, true
+		}
+	}
+	for j = at + 1; j < len(l); j++ {
+		if m, is = join(l[at].f, l[j].f); is {
+			return at, j, m, true
 		}
 	}
 	return 0, 0, nil, false

@@ -16,6 +16,8 @@ import (
 	"testing"
 
 	"caduceus/index"
+	"caduceus/queue"
+	"caduceus/session"
 	"caduceus/store"
 	"caduceus/table"
 )
@@ -297,9 +299,9 @@ func TestIndexKeepsPredicatesByStructs(t *testing.T) {
 	}
 }
 
-// The ways of layers 13, 15 and 16: what came early, predicates, and rows stand in maps, and are deleted from them.
+// The ways of layers 13, 15, 16 and 18: what came early, predicates, rows, and counts stand in maps, and are deleted from them.
 func TestMapsAreDeletedFrom(t *testing.T) {
-	for _, layer := range []string{"link", "index", "table"} {
+	for _, layer := range []string{"link", "index", "table", "queue"} {
 		stands := false
 		for _, f := range sources(t) {
 			ast.Inspect(f.tree, func(n ast.Node) bool {
@@ -345,6 +347,29 @@ func TestStoreKeepsPointersToFlags(t *testing.T) {
 		})
 	}) {
 		t.Errorf("store keeps no map of pointers to what has an array of flags")
+	}
+}
+
+// The ways of layer 19: sessions embed their queue, and offer by its methods as their own.
+func TestSessionsEmbedTheirQueue(t *testing.T) {
+	embeds := func(x reflect.Type) bool {
+		field, is := x.FieldByName("Queue")
+		return is && field.Anonymous && field.Type == reflect.TypeFor[*queue.Queue]()
+	}
+	if !slices.ContainsFunc(fields(reflect.TypeFor[session.Sessions]()), func(x reflect.Type) bool {
+		return x.Kind() == reflect.Map && x.Elem().Kind() == reflect.Pointer && embeds(x.Elem().Elem())
+	}) {
+		t.Errorf("session keeps no sessions that embed their queue")
+	}
+	if has(t, "session", func(n ast.Node, _ *ast.FuncDecl) bool {
+		x, ok := n.(*ast.SelectorExpr)
+		if !ok || x.Sel.Name != "Queue" {
+			return false
+		}
+		pack, ok := x.X.(*ast.Ident)
+		return !ok || pack.Name != "queue"
+	}) {
+		t.Errorf("session calls a queue's methods otherwise than as the session's own")
 	}
 }
 
