@@ -314,6 +314,9 @@ func TestViewsAreNotShared(t *testing.T) {
 		t.Fatalf("the view is %+v", got)
 	}
 	clear(b.View().L)
+	if got := b.View(); !sameView(got, firstView(t, 1, 2, 3)) {
+		t.Fatalf("the view is %+v", got)
+	}
 	v = downOf(t, firstView(t, 1, 2, 3), 3)
 	b.Enter(v)
 	clear(v.L)
@@ -395,6 +398,8 @@ func TestRequestsWaitUntilItIsReady(t *testing.T) {
 		api.Msg{Kind: api.MsgAsk, Req: id(2, 1, 2), S: b},
 		api.Msg{Kind: api.MsgPub, S: c, X: x},
 	)
+	// What another owner tells is heard meanwhile.
+	s.say(2, api.Msg{Kind: api.MsgTell, Req: id(1, 1, 50), E: api.ErrNone})
 	s.hears("before it is ready", 2)
 	if s.b.Ready() || s.b.Idle() {
 		t.Fatalf("ready without 3")
@@ -445,7 +450,7 @@ func TestEpochs(t *testing.T) {
 	subs := func(epoch, ver int) api.Msg {
 		return api.Msg{Kind: api.MsgSubs, Epoch: epoch, S: n, Ver: ver, F: [][]api.Pred{nil}}
 	}
-	s.say(2, subs(2, 77), subs(5, 50), api.Msg{Kind: api.MsgReady, Epoch: 2}, subs(6, 60), subs(4, 40), subs(5, 51), api.Msg{Kind: api.MsgReady, Epoch: 6})
+	s.say(2, subs(2, 77), subs(5, 50), api.Msg{Kind: api.MsgReady, Epoch: 2}, subs(6, 60), subs(4, 40), subs(5, 51), api.Msg{Kind: api.MsgReady, Epoch: 6}, api.Msg{Kind: api.MsgAsk, Epoch: 6, Req: id(2, 1, 1), S: n})
 	if rows := s.b.Wants(n); rows != nil || s.b.Ready() {
 		t.Fatalf("epoch 3: %+v, ready %v", rows, s.b.Ready())
 	}
@@ -453,7 +458,11 @@ func TestEpochs(t *testing.T) {
 		enter, ver int
 		ready      bool
 	}{{5, 51, false}, {6, 60, true}, {8, 0, false}} {
+		s.forget()
 		s.enter(views[want.enter-1])
+		if want.enter == 6 {
+			s.hears("in epoch 6", 2, api.Msg{Kind: api.MsgReady}, api.Msg{Kind: api.MsgSubsOK, S: n, Ver: 60}, api.Msg{Kind: api.MsgTell, Req: id(2, 1, 1), E: api.ErrNone})
+		}
 		rows := s.b.Wants(n)
 		if want.ver == 0 && rows != nil || want.ver != 0 && (len(rows) != 1 || rows[0].Ver != want.ver) || s.b.Ready() != want.ready {
 			t.Fatalf("%d: epoch %d: %+v, ready %v", i, want.enter, rows, s.b.Ready())
@@ -631,7 +640,7 @@ func TestSpreadsItsTypesWhenItIsReady(t *testing.T) {
 	mine, others := rootOf(t, owned(t, v, 1, 0), id(2, 1, 4)), rootOf(t, owned(t, v, 2, 0), id(2, 1, 5))
 	earlier := rootOf(t, mine.Name, id(1, 1, 9))
 	s.say(2, api.Msg{Kind: api.MsgHave, T: []api.Type{mine, others}}, api.Msg{Kind: api.MsgReady}, api.Msg{Kind: api.MsgAsk, Req: id(2, 1, 6), S: mine.Name})
-	s.say(3, api.Msg{Kind: api.MsgHave, T: []api.Type{earlier}})
+	s.say(3, api.Msg{Kind: api.MsgHave, T: []api.Type{earlier}}, api.Msg{Kind: api.MsgHave, T: []api.Type{rootOf(t, mine.Name, id(3, 1, 1))}})
 	if l := s.b.Types(); len(l) != 2 || !slices.ContainsFunc(l, func(x api.Type) bool { return forest.Same(x, earlier) }) {
 		t.Fatalf("it keeps %+v", l)
 	}
@@ -642,9 +651,13 @@ func TestSpreadsItsTypesWhenItIsReady(t *testing.T) {
 	s.hears("not sure yet", 2)
 	s.say(3, api.Msg{Kind: api.MsgStored, Req: earlier.By, S: mine.Name})
 	s.hears("sure", 2, api.Msg{Kind: api.MsgTell, Req: id(2, 1, 6), T: []api.Type{earlier}})
+	s.say(2, api.Msg{Kind: api.MsgReady})
+	s.hears("said twice", 2)
 	// In another epoch nothing is sure any more.
-	w := api.View{Epoch: 2, L: v.L}
-	s.enter(w)
+	s.enter(api.View{Epoch: 2, L: v.L})
+	if k, is := s.b.store.Find(mine.Name); !is || k.Sure {
+		t.Fatalf("in another epoch: %+v", k)
+	}
 	s.ready()
 	s.forget()
 	s.say(2, api.Msg{Kind: api.MsgAsk, Req: id(2, 1, 7), S: mine.Name})

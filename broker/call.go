@@ -17,9 +17,9 @@ type ask struct {
 	ticket int
 	id     api.ID
 	c      api.Call
-	sub    int    // the subscription's number, if only its owner is to hear of it
+	sub    int    // the subscription's number, if there is one, of which its owner is to hear
 	of     string // its type, folded
-	ver    int    // the version of which it is to hear
+	ver    int    // the version of which the owner is to hear
 }
 
 // pub is an event that is not given to all.
@@ -185,7 +185,7 @@ func (b *Broker) heard(m api.Msg) {
 	w.heard = max(w.heard, m.Ver)
 	b.wants[of] = w
 	b.finish(func(a *ask) bool {
-		return a.sub != 0 && a.of == of && a.ver <= w.heard && b.reply(a, a.sub, api.OK)
+		return a.of == of && a.ver <= w.heard && b.reply(a, a.sub, api.OK)
 	})
 }
 

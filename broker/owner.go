@@ -7,7 +7,6 @@ import (
 	"caduceus/api"
 	"caduceus/forest"
 	"caduceus/name"
-	"caduceus/view"
 )
 
 // request is what another broker, or this one, asks of an owner.
@@ -179,14 +178,12 @@ func (b *Broker) wanted(x letter) {
 	}
 }
 
-// give gives an event to all that want it.
+// give gives an event to all that want it: these are up, as the table has rows of this epoch alone.
 func (b *Broker) give(r *request) {
 	g := &give{id: r.m.X.ID, of: r.m.S, from: r.from}
 	for _, node := range b.table.Match(r.m.S, r.m.X.Attrs) {
-		if view.IsUp(b.view, node) {
-			g.wait[node] = true
-			b.send(node, api.Msg{Kind: api.MsgGive, S: r.m.S, X: r.m.X})
-		}
+		g.wait[node] = true
+		b.send(node, api.Msg{Kind: api.MsgGive, S: r.m.S, X: r.m.X})
 	}
 	if !b.over(g) {
 		b.gives = append(b.gives, g)

@@ -287,7 +287,7 @@ func TestGrants(t *testing.T) {
 		// As it stands: In alone is asked, where it is.
 		{set(ints, func(w *api.Want) { w.HasIn, w.In, w.HasHi, w.Hi, w.Not = true, nums(3, 1), true, num(1), nums(3, 1) }), list{"a = 3", "a > 2"}, list{"a < 2", "a != 3"}},
 		{set(ints, func(w *api.Want) { w.HasIn = true }), list{"a = 3", "a < 2"}, list{"a = \"\""}},
-		{set(ints, func(w *api.Want) { w.HasIn, w.In = true, values(num(3), text("a")) }), nil, list{"a = 3", "a < 9"}},
+		{set(ints, func(w *api.Want) { w.HasIn, w.In = true, values(num(3), text("a")) }), nil, list{"a = 3", "a < 9", "a != 4", "a > 1"}},
 		{set(ints, func(w *api.Want) { w.HasIn, w.In = true, values(num(api.MaxInt+1)) }), nil, list{"a > 1", "a != 3"}},
 		{api.Want{HasIn: true, In: nums(1, 1)}, nil, list{"a = 1"}},
 		{set(texts, func(w *api.Want) { w.In = values(text("a")) }), nil, list{`a = "a"`}},

@@ -59,6 +59,7 @@ func yieldsToAny(l []asked, at int) bool {
 
 // pruneAround prunes filters of which none covers another one, but for the one at that place; and where that place is then.
 func pruneAround(l []asked, at int) (stay []asked, place int) {
+	stay = make([]asked, 0, len(l))
 	for i := range l {
 		if i == at {
 			place = len(stay)

@@ -373,6 +373,28 @@ func TestSessionsEmbedTheirQueue(t *testing.T) {
 	}
 }
 
+// The ways of layer 20: messages are dispatched by a switch over their kinds; what waits is gone through by closures.
+func TestBrokerGoesThroughWhatWaitsByClosures(t *testing.T) {
+	kinds := has(t, "broker", func(n ast.Node, _ *ast.FuncDecl) bool {
+		x, ok := n.(*ast.SwitchStmt)
+		if !ok {
+			return false
+		}
+		tag, ok := x.Tag.(*ast.SelectorExpr)
+		return ok && tag.Sel.Name == "Kind" && len(x.Body.List) >= 12
+	})
+	gone := has(t, "broker", func(n ast.Node, _ *ast.FuncDecl) bool {
+		x, ok := n.(*ast.CallExpr)
+		return ok && slices.ContainsFunc(x.Args, func(arg ast.Expr) bool {
+			_, is := arg.(*ast.FuncLit)
+			return is
+		})
+	})
+	if !kinds || !gone {
+		t.Errorf("broker dispatches no messages by a switch (%v), or goes through nothing by a closure (%v)", kinds, gone)
+	}
+}
+
 // calls tells whether a function calls what an expression names.
 func calls(f *ast.FuncDecl, what ast.Expr) bool {
 	found := false
