@@ -1,6 +1,7 @@
 package broker
 
 import (
+	"maps"
 	"slices"
 
 	"caduceus/api"
@@ -214,7 +215,7 @@ func (b *Broker) tellChange(of string) {
 
 // tellChanges tells all owners what the clients want otherwise than they were told.
 func (b *Broker) tellChanges() {
-	for _, of := range sortedNames(b.wants) {
+	for _, of := range slices.SortedFunc(maps.Keys(b.wants), name.Compare) {
 		b.tellChange(of)
 	}
 }
@@ -254,7 +255,7 @@ func (b *Broker) publish(p *pub) {
 func (b *Broker) givenToAll(m api.Msg) {
 	b.pubs = slices.DeleteFunc(b.pubs, func(p *pub) bool {
 		if p.x.ID == m.Req {
-			p.left = slices.DeleteFunc(p.left, sameName(m.S))
+			p.left = slices.DeleteFunc(p.left, func(s string) bool { return name.Same(s, m.S) })
 		}
 		return len(p.left) == 0
 	})

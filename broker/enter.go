@@ -6,7 +6,6 @@ import (
 	"caduceus/api"
 	"caduceus/forest"
 	"caduceus/link"
-	"caduceus/name"
 	"caduceus/view"
 	"caduceus/wire"
 )
@@ -151,9 +150,4 @@ func (b *Broker) have(m api.Msg) {
 	for _, t := range m.T {
 		b.store.Put(t)
 	}
-}
-
-// sameName is a test of whether a name is the same as another one.
-func sameName(s string) func(string) bool {
-	return func(other string) bool { return name.Same(s, other) }
 }

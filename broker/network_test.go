@@ -319,6 +319,11 @@ func (w *network) check() {
 	w.checkOwners()
 }
 
+// sameName is a test of whether a name is the same as another one.
+func sameName(s string) func(string) bool {
+	return func(other string) bool { return name.Same(s, other) }
+}
+
 // checkAnswers: all answers came (20.4), but of brokers that crashed.
 func (w *network) checkAnswers() {
 	w.t.Helper()

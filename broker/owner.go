@@ -1,7 +1,6 @@
 package broker
 
 import (
-	"maps"
 	"slices"
 
 	"caduceus/api"
@@ -207,9 +206,4 @@ func (b *Broker) over(g *give) bool {
 	}
 	b.send(g.from, api.Msg{Kind: api.MsgDone, Req: g.id, S: g.of})
 	return true
-}
-
-// sortedNames are the names by which a map is kept.
-func sortedNames[V any](m map[string]V) []string {
-	return slices.SortedFunc(maps.Keys(m), name.Compare)
 }
