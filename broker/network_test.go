@@ -15,6 +15,7 @@ import (
 	"caduceus/net"
 	"caduceus/session"
 	"caduceus/view"
+	"caduceus/wire"
 )
 
 // network is brokers and the packets between them, and all that its clients were told.
@@ -24,6 +25,7 @@ type network struct {
 	b     [places]*Broker
 	way   *net.Net
 	now   int // how many things were done
+	sent  strings.Builder
 
 	calls   map[calledAt]api.Call
 	replies map[calledAt]api.Reply
@@ -94,6 +96,7 @@ func (w *network) behind() {
 	w.now++
 	for _, node := range w.up() {
 		for _, p := range w.b[node].Out() {
+			w.sent.WriteString(wire.PacketText(p))
 			if e := w.way.Send(p); e != api.OK && e != api.ErrFull {
 				w.t.Fatalf("%d sends %+v: %v", node, p, e)
 			}
@@ -605,6 +608,37 @@ func (w *network) crashOrRise(r *rand.Rand, nodes []int) {
 		w.openAt(node, r)
 	} else if len(w.up()) > 1 {
 		w.crash(node)
+	}
+}
+
+// What a broker answers and sends hangs on what it was given alone.
+func TestSameArgumentsSamePackets(t *testing.T) {
+	play := func(seed int64) string {
+		r := rand.New(rand.NewSource(seed))
+		nodes := []int{1, 2, 3, 5}
+		w := begun(t, r, nodes...)
+		for range 200 {
+			switch x := r.Intn(12); {
+			case x < 4:
+				w.call(w.someNode(r), someCall(r, t))
+			case x == 4 && r.Intn(4) == 0:
+				w.crashOrRise(r, nodes)
+			case x == 5:
+				w.learn(w.someNode(r))
+			default:
+				w.stir(r, true)
+			}
+		}
+		w.calm()
+		return w.sent.String()
+	}
+	for seed := range int64(5) {
+		first := play(seed)
+		for range 3 {
+			if play(seed) != first {
+				t.Fatalf("seed %d: other packets than the first time", seed)
+			}
+		}
 	}
 }
 
