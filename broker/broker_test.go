@@ -167,7 +167,7 @@ func (s *stage) answers(what string, want ...api.Reply) {
 }
 
 func sameReply(a, b api.Reply) bool {
-	return a.Ticket == b.Ticket && a.ID == b.ID && sameAnswers(a, b, true)
+	return a.Ticket == b.Ticket && a.ID == b.ID && sameAnswers(a, b)
 }
 
 // owned is the i-th name that a node owns. The points of nodes stand close together, and few names have a key between two of them: these do.

@@ -26,7 +26,7 @@ type ask struct {
 // pub is an event that is not given to all.
 type pub struct {
 	x    api.Event
-	left []string // the types whose owners have not said that it is given
+	left []string // the types whose owners have not said that it is given, in the order of its Chain
 }
 
 // told is what the owner of a type was told of what the clients want.
@@ -244,18 +244,21 @@ func (b *Broker) makeEvent(c api.Call) (api.ID, api.Errno) {
 	return x.ID, api.OK
 }
 
-// publish asks the owners of an event's types to give it.
+// publish asks the owner of the first type that is left to give an event. The next one is asked when it is given to all: so each client is given it in the order of its Chain, as if there were one broker, and of two for which there is room for one the same one comes in.
 func (b *Broker) publish(p *pub) {
-	for _, s := range p.left {
-		b.send(b.owner(s), api.Msg{Kind: api.MsgPub, S: s, X: p.x})
-	}
+	s := p.left[0]
+	b.send(b.owner(s), api.Msg{Kind: api.MsgPub, S: s, X: p.x})
 }
 
 // givenToAll hears that an event is given to all that want it by a type.
 func (b *Broker) givenToAll(m api.Msg) {
 	b.pubs = slices.DeleteFunc(b.pubs, func(p *pub) bool {
-		if p.x.ID == m.Req {
-			p.left = slices.DeleteFunc(p.left, func(s string) bool { return name.Same(s, m.S) })
+		if p.x.ID != m.Req || !name.Same(p.left[0], m.S) {
+			return false
+		}
+		p.left = p.left[1:]
+		if len(p.left) > 0 {
+			b.publish(p)
 		}
 		return len(p.left) == 0
 	})

@@ -224,7 +224,7 @@ func TestLaterAnswers(t *testing.T) {
 	}
 }
 
-// Promise 20.2: CallPub: the errors, in their order, and how many events may be under way.
+// Promise 20.2: CallPub: the errors, in their order, how many events may be under way, and that the owners of their types are asked one behind the other.
 func TestPublishes(t *testing.T) {
 	v := firstView(t, 1, 2, 3)
 	s := play(t, 1, v)
@@ -256,21 +256,26 @@ func TestPublishes(t *testing.T) {
 		}
 	}
 	errors()
+	x := api.Event{Type: low.Name, Attrs: []api.Attr{intAttr("a", 7), text("B", "x")}}
 	for i := range MaxPubs {
 		r := s.done(pub)
 		if r.E != api.OK || r.ID != id(1, 1, 2+i) {
 			t.Fatalf("event %d: %+v", i, r)
 		}
-		x := api.Event{ID: r.ID, Type: low.Name, Attrs: []api.Attr{intAttr("a", 7), text("B", "x")}}
+		x.ID = r.ID
 		s.hears("an event", 3, api.Msg{Kind: api.MsgPub, S: low.Name, X: x})
-		s.hears("an event", 2, api.Msg{Kind: api.MsgPub, S: top.Name, X: x})
 	}
+	s.hears("the first type's owner has not given it", 2)
 	errors()
 	if r := s.done(pub); r.E != api.ErrFull || s.b.Waits() != MaxPubs {
 		t.Fatalf("one too many: %+v, %d wait", r, s.b.Waits())
 	}
 	done := func(of string) api.Msg { return api.Msg{Kind: api.MsgDone, Req: id(1, 1, 9), S: of} }
+	s.say(2, done(top.Name))
+	s.hears("that is not what was asked first", 2)
 	s.say(3, done(low.Name), done(low.Name), api.Msg{Kind: api.MsgDone, Req: id(1, 1, 99), S: top.Name})
+	x.ID = id(1, 1, 9)
+	s.hears("the first type's owner has given it", 2, api.Msg{Kind: api.MsgPub, S: top.Name, X: x})
 	if r := s.done(pub); r.E != api.ErrFull {
 		t.Fatalf("one that is not given to all: %+v", r)
 	}
@@ -317,13 +322,17 @@ func TestAsksAgain(t *testing.T) {
 	up := s.b.owner("up")
 	s.answers("it is ready", api.Reply{Ticket: sub, Kind: api.CallSub, N: 1})
 	r := s.done(api.Call{Kind: api.CallPoll, Session: 1, N: 9})
-	if len(r.G) != 2 || r.G[0].X.ID != x.ID || r.G[1].X.ID != y.ID || r.G[0].Of != top.Name {
+	if len(r.G) != 1 || r.G[0].X.ID != x.ID || r.G[0].Of != top.Name {
 		t.Fatalf("CallPoll: %+v", r)
 	}
 	if len(s.b.pubs) != 1 || len(s.b.asks) != 1 || s.b.asks[0].ticket != reg {
 		t.Fatalf("%d events and %d answers wait", len(s.b.pubs), len(s.b.asks))
 	}
 	s.say(3, api.Msg{Kind: api.MsgDone, Req: y.ID, S: low.Name})
+	r = s.done(api.Call{Kind: api.CallPoll, Session: 1, N: 9})
+	if len(r.G) != 1 || r.G[0].X.ID != y.ID || r.G[0].Of != top.Name {
+		t.Fatalf("CallPoll: %+v", r)
+	}
 	s.say(up, api.Msg{Kind: api.MsgTell, Req: id(1, 1, 6), E: api.ErrNone})
 	s.answers("no parent", api.Reply{Ticket: reg, Kind: api.CallReg, E: api.ErrNone})
 	if !s.b.Idle() {

@@ -789,20 +789,11 @@ func (x *registry) publish(s *session.Sessions, c api.Call) api.Errno {
 	return api.OK
 }
 
-// sameAnswers tells whether both answer the same, but for events' identities, and for the order in which they are given if the brokers are several.
-func sameAnswers(a, b api.Reply, ordered bool) bool {
-	if a.Kind != b.Kind || a.E != b.E || a.N != b.N || len(a.G) != len(b.G) {
-		return false
-	}
-	left := slices.Clone(b.G)
-	for _, g := range a.G {
-		at := slices.IndexFunc(left, func(h api.Given) bool { return g.Sub == h.Sub && g.Of == h.Of && event.Alike(g.X, h.X) })
-		if at < 0 || ordered && at > 0 {
-			return false
-		}
-		left = slices.Delete(left, at, at+1)
-	}
-	return true
+// sameAnswers tells whether both answer the same, but for events' identities.
+func sameAnswers(a, b api.Reply) bool {
+	return a.Kind == b.Kind && a.E == b.E && a.N == b.N && slices.EqualFunc(a.G, b.G, func(g, h api.Given) bool {
+		return g.Sub == h.Sub && g.Of == h.Of && event.Alike(g.X, h.X)
+	})
 }
 
 // wrongCall is a call with something that may not be.
@@ -847,7 +838,7 @@ func TestAloneAsOneRegistry(t *testing.T) {
 			if later := c.Kind == api.CallReg || c.Kind == api.CallAdv || c.Kind == api.CallSub; done && len(l) > 0 || !done && (len(l) != 1 || !later) {
 				t.Fatalf("seed %d, %+v: done %v, and then %+v", seed, c, done, l)
 			}
-			if got.Ticket != i+1 || ticket != i+1 || !sameAnswers(got, want, true) || !b.Idle() || b.Out() != nil {
+			if got.Ticket != i+1 || ticket != i+1 || !sameAnswers(got, want) || !b.Idle() || b.Out() != nil {
 				t.Fatalf("seed %d, call %d, %+v: %+v; a registry: %+v", seed, i+1, c, got, want)
 			}
 		}
@@ -880,15 +871,8 @@ func TestTogetherAsOneRegistry(t *testing.T) {
 		x := newRegistry(nodes)
 		for range 150 {
 			node, c := w.someNode(r), wrongCall(r, t)
-			if c.Kind == api.CallOpen {
-				// With room for all, as those who have no room may be others if the order is another one.
-				c.N = 100
-			}
 			want := x.call(node, c)
-			if c.Kind == api.CallPoll {
-				c.N, want = 100, x.call(node, api.Call{Kind: c.Kind, Session: c.Session, N: 100})
-			}
-			if got := w.over(node, c); !sameAnswers(got, want, false) {
+			if got := w.over(node, c); !sameAnswers(got, want) {
 				t.Fatalf("seed %d, %+v at %d: %+v; a registry: %+v", seed, c, node, got, want)
 			}
 		}

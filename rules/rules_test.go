@@ -15,6 +15,9 @@ import (
 	"strings"
 	"testing"
 
+	"caduceus/api"
+	"caduceus/broker"
+	"caduceus/hermes"
 	"caduceus/index"
 	"caduceus/queue"
 	"caduceus/session"
@@ -392,6 +395,54 @@ func TestBrokerGoesThroughWhatWaitsByClosures(t *testing.T) {
 	})
 	if !kinds || !gone {
 		t.Errorf("broker dispatches no messages by a switch (%v), or goes through nothing by a closure (%v)", kinds, gone)
+	}
+}
+
+// The ways of layer 21: calls are done by method expressions, that stand in a table within a function, by their kinds.
+func TestModelCallsByMethodExpressions(t *testing.T) {
+	isExpression := func(x ast.Expr) bool {
+		row, ok := x.(*ast.KeyValueExpr)
+		if !ok {
+			return false
+		}
+		method, ok := row.Value.(*ast.SelectorExpr)
+		if !ok {
+			return false
+		}
+		_, ok = method.X.(*ast.ParenExpr)
+		return ok
+	}
+	if !has(t, "model", func(n ast.Node, _ *ast.FuncDecl) bool {
+		x, ok := n.(*ast.CompositeLit)
+		return ok && len(x.Elts) == api.CallOver && !slices.ContainsFunc(x.Elts, func(e ast.Expr) bool { return !isExpression(e) })
+	}) {
+		t.Errorf("model has no table of method expressions, one for each kind of calls")
+	}
+}
+
+// The ways of layer 22: brokers stand in an array, whose places are gone through; deeds are dispatched by a switch over their kinds.
+func TestHermesKeepsBrokersInAnArray(t *testing.T) {
+	stand := slices.ContainsFunc(fields(reflect.TypeFor[hermes.Hermes]()), func(x reflect.Type) bool {
+		return x.Kind() == reflect.Array && x.Elem() == reflect.TypeFor[*broker.Broker]()
+	})
+	gone := has(t, "hermes", func(n ast.Node, f *ast.FuncDecl) bool {
+		x, ok := n.(*ast.RangeStmt)
+		if !ok || x.Value != nil {
+			return false
+		}
+		row, ok := x.X.(*ast.SelectorExpr)
+		return ok && row.Sel.Name == "brokers"
+	})
+	kinds := has(t, "hermes", func(n ast.Node, _ *ast.FuncDecl) bool {
+		x, ok := n.(*ast.SwitchStmt)
+		if !ok {
+			return false
+		}
+		tag, ok := x.Tag.(*ast.SelectorExpr)
+		return ok && tag.Sel.Name == "Kind" && len(x.Body.List) > api.DeedCalm
+	})
+	if !stand || !gone || !kinds {
+		t.Errorf("hermes has no array of brokers (%v), goes through no places of one (%v), or dispatches no deeds by a switch (%v)", stand, gone, kinds)
 	}
 }
 
