@@ -46,12 +46,7 @@ func (b *Broker) Call(c api.Call) (r api.Reply, done bool) {
 	switch c.Kind {
 	case api.CallReg, api.CallAdv, api.CallSub:
 		r.E = b.mayAsk(c)
-		done = r.E != api.OK
-		if !done {
-			a := &ask{ticket: r.Ticket, id: b.newID(), c: copyOfCall(c)}
-			b.asks = append(b.asks, a)
-			b.askFor(a)
-		}
+		done = r.E != api.OK || b.start(&ask{ticket: r.Ticket, id: b.newID(), c: copyOfCall(c)}, &r)
 	default:
 		b.answer(c, &r)
 		done = true
@@ -121,6 +116,19 @@ func copyOfCall(c api.Call) api.Call {
 	return c
 }
 
+// start lets a call begin that an owner is to be asked for: whether it is answered at once.
+func (b *Broker) start(a *ask, r *api.Reply) (done bool) {
+	if t, is := b.seen[name.Fold(a.c.Name)]; is && a.c.Kind != api.CallReg {
+		r.N, r.E, done = b.goOn(a, t)
+	} else {
+		b.askFor(a)
+	}
+	if !done {
+		b.asks = append(b.asks, a)
+	}
+	return done
+}
+
 // askFor asks the owner for a type, or for its registration.
 func (b *Broker) askFor(a *ask) {
 	m := api.Msg{Kind: api.MsgAsk, Req: a.id, S: a.c.Name}
@@ -141,8 +149,16 @@ func (b *Broker) reply(a *ask, n int, e api.Errno) bool {
 	return true
 }
 
+// see notes a type that is registered: it need not be asked for again.
+func (b *Broker) see(l []api.Type) {
+	for _, t := range l {
+		b.seen[name.Fold(t.Name)] = t
+	}
+}
+
 // registered hears what became of a registration.
 func (b *Broker) registered(m api.Msg) {
+	b.see(m.T)
 	b.finish(func(a *ask) bool {
 		return a.id == m.Req && a.c.Kind == api.CallReg && b.reply(a, 0, m.E)
 	})
@@ -150,30 +166,37 @@ func (b *Broker) registered(m api.Msg) {
 
 // typeTold hears of a type, that a client or this broker as an owner asked for.
 func (b *Broker) typeTold(m api.Msg) {
+	b.see(m.T)
 	b.finish(func(a *ask) bool {
-		return a.id == m.Req && a.c.Kind != api.CallReg && a.sub == 0 && b.goOn(a, m)
+		if a.id != m.Req || a.c.Kind == api.CallReg || a.sub != 0 {
+			return false
+		}
+		if m.E != api.OK {
+			return b.reply(a, 0, m.E)
+		}
+		n, e, done := b.goOn(a, m.T[0])
+		return done && b.reply(a, n, e)
 	})
 	b.parentTold(m)
 }
 
-// goOn does what a client asked for, now that its type is told: whether it is answered.
-func (b *Broker) goOn(a *ask, m api.Msg) bool {
-	if m.E != api.OK {
-		return b.reply(a, 0, m.E)
-	}
-	t := m.T[0]
+// goOn does what a client asked for, now that its type is known: what it is answered, if it is yet.
+func (b *Broker) goOn(a *ask, t api.Type) (n int, e api.Errno, done bool) {
 	if a.c.Kind == api.CallAdv {
-		return b.reply(a, 0, b.sessions.Advertise(a.c.Session, t))
+		return 0, b.sessions.Advertise(a.c.Session, t), true
 	}
 	sub, e := b.sessions.Subscribe(a.c.Session, t, a.c.F)
 	if e != api.OK {
-		return b.reply(a, 0, e)
+		return 0, e, true
 	}
 	a.sub, a.of = sub, name.Fold(t.Name)
 	b.tellChange(a.of)
 	w := b.wants[a.of]
 	a.ver = w.ver
-	return w.heard >= w.ver && b.reply(a, sub, api.OK)
+	if w.heard < w.ver {
+		return 0, api.OK, false
+	}
+	return sub, api.OK, true
 }
 
 // heard hears that an owner knows what the clients want.

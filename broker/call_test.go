@@ -52,7 +52,8 @@ func TestCallsOfSessions(t *testing.T) {
 		{of(api.CallWithdraw, 1, 0), 0, api.OK}, {of(api.CallPub, 1, 0), 0, api.ErrNone}, {of(api.CallClose, 1, 0), 0, api.OK}, {of(api.CallPoll, 1, 1), 0, api.ErrNone}, {open(3), 3, api.OK},
 	} {
 		r, done := s.b.Call(x.c)
-		later := x.c.Kind == api.CallReg || x.c.Kind == api.CallAdv || x.c.Kind == api.CallSub
+		// The type is seen, and the second subscription asks for what the owner has heard of.
+		later := x.c.Kind == api.CallReg || x.c.Kind == api.CallSub && x.n == 1
 		if done == later {
 			t.Errorf("%d: %+v: done %v", i, x.c, done)
 		}
@@ -224,6 +225,89 @@ func TestLaterAnswers(t *testing.T) {
 	}
 }
 
+// Promise 20.2: a type that was seen registered is not asked for again, in later views neither: CallAdv is done, and CallSub, if the owner heard of all that it asks for; identities are made all the same.
+func TestSeenTypes(t *testing.T) {
+	v := firstView(t, 1, 2)
+	s := play(t, 1, v)
+	s.ready()
+	s.done(api.Call{Kind: api.CallOpen, N: 5})
+	made, told := owned(t, v, 2, 0), owned(t, v, 2, 1)
+	s.calls(api.Call{Kind: api.CallReg, Session: 1, Name: made})
+	s.say(2, api.Msg{Kind: api.MsgRegOK, Req: id(1, 1, 1), T: []api.Type{rootOf(t, made, id(1, 1, 1))}})
+	s.calls(api.Call{Kind: api.CallSub, Session: 1, Name: told, F: parsed(t, "b = 1")})
+	s.say(2, api.Msg{Kind: api.MsgTell, Req: id(1, 1, 2), T: []api.Type{rootOf(t, told, id(2, 1, 1))}})
+	s.answers("both", api.Reply{Ticket: 2, Kind: api.CallReg}, api.Reply{Ticket: 3, Kind: api.CallSub, E: api.ErrNone})
+	s.forget()
+	for i, n := range []string{made, told} {
+		adv, wrong := api.Call{Kind: api.CallAdv, Session: 1, Name: strings.ToUpper(n)}, api.Call{Kind: api.CallSub, Session: 1, Name: n, F: parsed(t, `a = "x"`)}
+		for k, want := range []api.Errno{api.OK, api.ErrThere} {
+			if r := s.done(adv); r.E != want || r.N != 0 || r.ID != (api.ID{}) {
+				t.Fatalf("CallAdv %d of %s: %+v", k, n, r)
+			}
+		}
+		if r := s.done(wrong); r.E != api.ErrKind || r.N != 0 {
+			t.Fatalf("CallSub of %s: %+v", n, r)
+		}
+		s.hears("nothing is asked", 2)
+		ticket := s.calls(api.Call{Kind: api.CallSub, Session: 1, Name: n})
+		s.hears("wants", 2, api.Msg{Kind: api.MsgSubs, S: n, Ver: 1 + i, F: [][]api.Pred{nil}})
+		s.say(2, api.Msg{Kind: api.MsgSubsOK, S: n, Ver: 1 + i})
+		s.answers("the owner heard of it", api.Reply{Ticket: ticket, Kind: api.CallSub, N: 1 + 2*i})
+		if r := s.done(api.Call{Kind: api.CallSub, Session: 1, Name: n, F: parsed(t, "a = 1")}); r.N != 2+2*i || r.E != api.OK {
+			t.Fatalf("CallSub of what the owner heard of: %+v", r)
+		}
+	}
+	if r := s.done(api.Call{Kind: api.CallPub, Session: 1, Name: made}); r.ID != id(1, 1, 13) {
+		t.Fatalf("behind 12 calls that ask: %+v", r)
+	}
+	s.enter(api.View{Epoch: 2, L: v.L})
+	s.ready()
+	s.forget()
+	s.done(api.Call{Kind: api.CallWithdraw, Session: 1, Name: told})
+	if r := s.done(api.Call{Kind: api.CallAdv, Session: 1, Name: told}); r.E != api.OK {
+		t.Fatalf("CallAdv in a later view: %+v", r)
+	}
+	s.hears("nothing is asked in a later view", 2)
+	s.calls(api.Call{Kind: api.CallReg, Session: 1, Name: made})
+	s.hears("a registration is asked for", 2, api.Msg{Kind: api.MsgReg, Req: id(1, 1, 15), S: made})
+	for len(s.b.asks) < MaxAsks {
+		s.calls(api.Call{Kind: api.CallAdv, Session: 1, Name: owned(t, v, 2, 2)})
+	}
+	for _, c := range []api.Call{{Kind: api.CallAdv, Session: 1, Name: told}, {Kind: api.CallSub, Session: 1, Name: told}} {
+		if r := s.done(c); r.E != api.ErrFull {
+			t.Errorf("with %d answers outstanding: %+v", MaxAsks, r)
+		}
+	}
+}
+
+// Promise 20.2: what was refused, or is only to be kept, was not seen registered; of two types of one name the last one was.
+func TestNotSeenTypes(t *testing.T) {
+	v := firstView(t, 1, 2)
+	s := play(t, 1, v)
+	s.ready()
+	s.done(api.Call{Kind: api.CallOpen, N: 5})
+	n := owned(t, v, 2, 0)
+	adv := api.Call{Kind: api.CallAdv, Session: 1, Name: n}
+	s.calls(adv)
+	s.say(2, api.Msg{Kind: api.MsgTell, Req: id(1, 1, 1), E: api.ErrNone})
+	s.calls(api.Call{Kind: api.CallReg, Session: 1, Name: n})
+	s.say(2, api.Msg{Kind: api.MsgRegOK, Req: id(1, 1, 2), E: api.ErrThere}, api.Msg{Kind: api.MsgStore, T: []api.Type{rootOf(t, n, id(2, 1, 1))}})
+	s.answers("refused", api.Reply{Ticket: 2, Kind: api.CallAdv, E: api.ErrNone}, api.Reply{Ticket: 3, Kind: api.CallReg, E: api.ErrThere})
+	s.forget()
+	s.calls(adv)
+	s.hears("it is asked for", 2, api.Msg{Kind: api.MsgAsk, Req: id(1, 1, 3), S: n})
+	s.calls(api.Call{Kind: api.CallReg, Session: 1, Name: n})
+	s.say(2, api.Msg{Kind: api.MsgTell, Req: id(1, 1, 3), T: []api.Type{rootOf(t, n, id(2, 1, 1))}}, api.Msg{Kind: api.MsgRegOK, Req: id(1, 1, 4), T: []api.Type{rootOf(t, strings.ToUpper(n), id(1, 1, 4))}})
+	s.done(api.Call{Kind: api.CallWithdraw, Session: 1, Name: n})
+	s.done(adv)
+	if x, is := s.b.Sessions().Ad(1, n); !is || x.By != id(1, 1, 4) || x.Name != strings.ToUpper(n) {
+		t.Errorf("it advertises %+v", x)
+	}
+	if b := New(1, upOf(t, downOf(t, v, 1), 1)); len(b.seen) != 0 {
+		t.Errorf("one that begins anew has seen %+v", b.seen)
+	}
+}
+
 // Promise 20.2: CallPub: the errors, in their order, how many events may be under way, and that the owners of their types are asked one behind the other.
 func TestPublishes(t *testing.T) {
 	v := firstView(t, 1, 2, 3)
@@ -349,14 +433,8 @@ func TestTellsWants(t *testing.T) {
 	s.done(api.Call{Kind: api.CallOpen, N: 5})
 	n := owned(t, v, 2, 0)
 	x := rootOf(t, strings.ToUpper(n), id(2, 1, 1))
-	asks := 0
-	sub := func(session int, f string) int {
-		t.Helper()
-		ticket := s.calls(api.Call{Kind: api.CallSub, Session: session, Name: n, F: parsed(t, f)})
-		asks++
-		s.hears(f, 2, api.Msg{Kind: api.MsgAsk, Req: id(1, 1, asks), S: n})
-		s.say(2, api.Msg{Kind: api.MsgTell, Req: id(1, 1, asks), T: []api.Type{x}})
-		return ticket
+	call := func(session int, f string) api.Call {
+		return api.Call{Kind: api.CallSub, Session: session, Name: n, F: parsed(t, f)}
 	}
 	tells := func(ver int, l ...string) api.Msg {
 		m := api.Msg{Kind: api.MsgSubs, S: n, Ver: ver}
@@ -368,11 +446,13 @@ func TestTellsWants(t *testing.T) {
 	ok := func(ver int) api.Msg { return api.Msg{Kind: api.MsgSubsOK, S: n, Ver: ver} }
 	reply := func(ticket, n int) api.Reply { return api.Reply{Ticket: ticket, Kind: api.CallSub, N: n} }
 	s.forget()
-	first := sub(1, "a >= 5")
+	first := s.calls(call(1, "a >= 5"))
+	s.hears("the type is asked for", 2, api.Msg{Kind: api.MsgAsk, Req: id(1, 1, 1), S: n})
+	s.say(2, api.Msg{Kind: api.MsgTell, Req: id(1, 1, 1), T: []api.Type{x}})
 	s.hears("the first one", 2, tells(1, "a >= 5"))
-	second := sub(1, "a > 7")
+	second := s.calls(call(1, "a > 7"))
 	s.hears("what is wanted already", 2)
-	third := sub(2, "a = 1")
+	third := s.calls(call(2, "a = 1"))
 	s.hears("another one", 2, tells(2, "a >= 5", "a = 1"))
 	s.answers("not heard of")
 	s.say(2, ok(1))
@@ -380,8 +460,10 @@ func TestTellsWants(t *testing.T) {
 	s.say(2, ok(2))
 	s.answers("the second version", reply(third, 3))
 	s.say(2, ok(1))
-	fourth := sub(1, "a = 9")
-	s.answers("what the owner heard of already", reply(fourth, 4))
+	if r := s.done(call(1, "a = 9")); r.N != 4 || r.E != api.OK {
+		t.Fatalf("what the owner heard of already: %+v", r)
+	}
+	s.answers("what the owner heard of already")
 	s.hears("what the owner heard of already", 2)
 	s.done(api.Call{Kind: api.CallUnsub, Session: 1, N: 2})
 	s.hears("one less, by which nothing changes", 2)
@@ -435,8 +517,10 @@ func TestWantsTooLongForAMessage(t *testing.T) {
 			want = [][]api.Pred{nil}
 		}
 		s.calls(api.Call{Kind: api.CallSub, Session: 1, Name: n, F: f})
-		s.forget()
-		s.say(2, api.Msg{Kind: api.MsgTell, Req: id(1, 1, 1+i), T: []api.Type{x}})
+		if i == 0 {
+			s.forget()
+			s.say(2, api.Msg{Kind: api.MsgTell, Req: id(1, 1, 1), T: []api.Type{x}})
+		}
 		s.hears("wants", 2, api.Msg{Kind: api.MsgSubs, S: n, Ver: 1 + i, F: want})
 	}
 	s.done(api.Call{Kind: api.CallUnsub, Session: 1, N: 1})
@@ -486,7 +570,6 @@ func TestHearsAnewInANewEpoch(t *testing.T) {
 	s.subscribed(n, "any")
 	s.enter(api.View{Epoch: 2, L: v.L})
 	ticket := s.calls(api.Call{Kind: api.CallSub, Session: 1, Name: n})
-	s.say(2, api.Msg{Kind: api.MsgTell, Req: id(1, 1, 2), T: []api.Type{rootOf(t, n, id(2, 1, 1))}})
 	s.say(2, api.Msg{Kind: api.MsgSubsOK, S: n, Ver: 1})
 	s.answers("the owner has not heard of it in this epoch")
 	s.say(2, api.Msg{Kind: api.MsgSubsOK, S: n, Ver: 2})
@@ -526,7 +609,7 @@ func TestCallsAreNotShared(t *testing.T) {
 	if l := s.b.Types(); len(l) != 1 || !forest.Same(l[0], made) {
 		t.Errorf("it keeps %+v", l)
 	}
-	s.calls(api.Call{Kind: api.CallAdv, Session: 1, Name: mine})
+	s.done(api.Call{Kind: api.CallAdv, Session: 1, Name: mine})
 	s.calls(api.Call{Kind: api.CallSub, Session: 1, Name: mine})
 	attrs := []api.Attr{intAttr("b", 2), intAttr("a", 1)}
 	s.done(api.Call{Kind: api.CallPub, Session: 1, Name: mine, Attrs: attrs})

@@ -655,9 +655,9 @@ func TestWhatWaits(t *testing.T) {
 		}
 	}
 	for i := range broker.MaxAsks + 2 {
-		r, is := w.answers[w.call(1, api.Call{Kind: api.CallSub, Session: 1, Name: someNames[0]})]
+		r, is := w.answers[w.call(1, api.Call{Kind: api.CallReg, Session: 1, Name: "t" + strconv.Itoa(i)})]
 		if is == (i < broker.MaxAsks) || is && r.E != api.ErrFull {
-			t.Fatalf("subscription %d: %+v, answered: %v", i, r, is)
+			t.Fatalf("registration %d: %+v, answered: %v", i, r, is)
 		}
 	}
 	w.calm()

@@ -446,6 +446,56 @@ func TestHermesKeepsBrokersInAnArray(t *testing.T) {
 	}
 }
 
+// The ways of layer 23: words are cut off by a function that returns several things, and joined by one that takes any number.
+func TestTaleCutsAndJoinsWords(t *testing.T) {
+	cuts := has(t, "tale", func(n ast.Node, _ *ast.FuncDecl) bool {
+		x, ok := n.(*ast.FuncDecl)
+		return ok && x.Name.Name == "cut" && x.Type.Results.NumFields() > 1
+	})
+	joins := has(t, "tale", func(n ast.Node, _ *ast.FuncDecl) bool {
+		x, ok := n.(*ast.FuncDecl)
+		if !ok || x.Name.Name != "join" || x.Type.Params.NumFields() == 0 {
+			return false
+		}
+		_, ok = x.Type.Params.List[len(x.Type.Params.List)-1].Type.(*ast.Ellipsis)
+		return ok
+	})
+	if !cuts || !joins || !hasCall(t, "tale", "cut") || !hasCall(t, "tale", "join") {
+		t.Errorf("tale cuts no words off by a function of several results (%v), or joins none by one that takes any number (%v)", cuts, joins)
+	}
+}
+
+// The ways of layer 24: what was published stands in a map by identities; findings are made by a closure.
+func TestAuditKnowsByIdentities(t *testing.T) {
+	stands := false
+	for _, f := range sources(t) {
+		ast.Inspect(f.tree, func(n ast.Node) bool {
+			x, ok := n.(*ast.MapType)
+			if !ok || f.layer != "audit" {
+				return true
+			}
+			key, ok := x.Key.(*ast.SelectorExpr)
+			stands = stands || ok && key.Sel.Name == "ID"
+			return true
+		})
+	}
+	makes := func(x *ast.FuncLit) (found bool) {
+		ast.Inspect(x, func(n ast.Node) bool {
+			y, ok := n.(*ast.SelectorExpr)
+			found = found || ok && y.Sel.Name == "Finding"
+			return true
+		})
+		return found
+	}
+	made := has(t, "audit", func(n ast.Node, _ *ast.FuncDecl) bool {
+		x, ok := n.(*ast.FuncLit)
+		return ok && makes(x)
+	})
+	if !stands || !made {
+		t.Errorf("audit has no map by identities (%v), or makes no findings by a closure (%v)", stands, made)
+	}
+}
+
 // calls tells whether a function calls what an expression names.
 func calls(f *ast.FuncDecl, what ast.Expr) bool {
 	found := false
