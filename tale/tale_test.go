@@ -10,6 +10,8 @@ import (
 	"caduceus/api"
 	"caduceus/event"
 	"caduceus/hermes"
+	"caduceus/name"
+	"caduceus/view"
 )
 
 // play plays a script that can be played.
@@ -101,7 +103,7 @@ crash 3
 18 ok ticket 6
   2 6 ok 0
 19 ok
-up 2 epoch 2 types 2
+up 2 epoch 2 types 1
 `
 	nodes := []int{1, 2, 3}
 	if got := play(t, nodes, script); got != want {
@@ -109,6 +111,118 @@ up 2 epoch 2 types 2
 	}
 	if !slices.Equal(nodes, []int{1, 2, 3}) {
 		t.Errorf("the nodes are %v now", nodes)
+	}
+}
+
+// ending is the last line of a tale.
+func ending(s string) string {
+	s = strings.TrimSuffix(s, "\n")
+	return s[strings.LastIndex(s, "\n")+1:]
+}
+
+// Promise 23.2: a type that several brokers keep is one type, whether it is registered yet or not, and however calls write its name.
+func TestPlayCountsTypesTogether(t *testing.T) {
+	const open = "call 1 open 5\n"
+	one := open + "call 1 reg 1 News - a int\n"
+	// Node 3 owns News, as the first of 3, 2, 1: it is asked, and lets the others keep it.
+	for i, x := range []struct {
+		nodes  []int
+		script string
+		want   string
+	}{
+		{[]int{1, 2, 3}, open + "calm\n", "up 3 epoch 1 types 0"},
+		{[]int{1}, one, "up 1 epoch 1 types 1"},
+		{[]int{1, 2, 3}, "calm\n" + one, "up 3 epoch 1 types 0"},
+		{[]int{1, 2, 3}, "calm\n" + one + "come 1 3 0\n", "up 3 epoch 1 types 1"},
+		{[]int{1, 2, 3}, "calm\n" + one + "come 1 3 0\ncome 3 2 0\n", "up 3 epoch 1 types 1"},
+		{[]int{1, 2, 3}, "calm\n" + one + "come 1 3 0\ncome 3 2 0\ncrash 3\n", "up 2 epoch 2 types 1"},
+		{[]int{1, 2, 3}, "calm\n" + one + "come 1 3 0\ncrash 3\n", "up 2 epoch 2 types 0"},
+		{[]int{1, 2}, one + "calm\n", "up 2 epoch 1 types 1"},
+		{[]int{1, 2, 3}, one + "calm\n", "up 3 epoch 1 types 1"},
+		{[]int{1, 2, 3, 4, 5}, one + "calm\n", "up 5 epoch 1 types 1"},
+		{[]int{1, 2, 3}, one + "call 1 reg 1 NEWS - b text\ncalm\n", "up 3 epoch 1 types 1"},
+		{[]int{1, 2, 3}, one + "calm\ncall 1 reg 1 news - -\ncalm\n", "up 3 epoch 1 types 1"},
+		{[]int{1, 2, 3}, one + "call 1 reg 1 Sport - a int\ncalm\n", "up 3 epoch 1 types 2"},
+		{[]int{1, 2, 3}, one + "calm\ncall 1 reg 1 News.Sport NEWS -\ncall 1 reg 1 Émile - -\ncall 1 reg 1 ÉMILE - -\ncalm\n", "up 3 epoch 1 types 3"},
+		{[]int{1, 2, 3}, one + "calm\ncrash 2\n", "up 2 epoch 2 types 1"},
+		{[]int{1, 2, 3}, one + "calm\ncrash 1\ncrash 2\n", "up 1 epoch 3 types 1"},
+		{[]int{1, 2, 3}, one + "calm\ncrash 1\ncrash 2\nrise 1\nrise 2\ncalm\n", "up 3 epoch 5 types 1"},
+		{[]int{1, 2, 3}, one + "calm\ncrash 1\ncrash 2\ncrash 3\n", "up 0 epoch 4 types 0"},
+		{[]int{1, 2, 3}, one + "calm\ncrash 1\ncrash 2\ncrash 3\nrise 2\ncalm\n", "up 1 epoch 5 types 0"},
+	} {
+		if got := ending(play(t, x.nodes, x.script)); got != x.want {
+			t.Errorf("%d: %q of nodes %v ends with %q, not %q", i, x.script, x.nodes, got, x.want)
+		}
+	}
+}
+
+// Promise 23.2: brokers that keep other types than each other count together: a type goes with the last one that keeps it.
+func TestPlayCountsTypesOfAllBrokers(t *testing.T) {
+	// The points of nodes 1 to 9, and those of 10 to 15, stand close together: these or those keep a type.
+	nodes := []int{1, 2, 3, 10, 11, 12}
+	names := []string{"News", "Sport", "NEWS.Sport", "Zoo", "Golf", "Émile", "Lottery", "A"}
+	first, e := view.First(nodes)
+	if e != api.OK {
+		t.Fatalf("view.First(%v): %v", nodes, e)
+	}
+	script := "call 1 open 5\n"
+	for _, x := range names {
+		script += fmt.Sprintf("call 1 reg 1 %s - a int\n", x)
+	}
+	script += "calm\n"
+	lost := 0
+	for crashed := range 1 << len(nodes) {
+		s := script
+		var up []int
+		for i, node := range nodes {
+			if crashed>>i&1 == 0 {
+				up = append(up, node)
+			} else {
+				s += fmt.Sprintf("crash %d\n", node)
+			}
+		}
+		left := 0
+		for _, x := range names {
+			if slices.ContainsFunc(view.Heirs(first, x), func(node int) bool { return slices.Contains(up, node) }) {
+				left++
+			}
+		}
+		if left > 0 {
+			lost += len(names) - left
+		}
+		want := fmt.Sprintf("up %d epoch %d types %d", len(up), 1+len(nodes)-len(up), left)
+		if got := ending(play(t, nodes, s)); got != want {
+			t.Errorf("with %v up it ends with %q, not %q", up, got, want)
+		}
+	}
+	if lost == 0 {
+		t.Error("no type went while others stayed")
+	}
+}
+
+// Promise 23.2: types are told apart by their names alone, as names are the same.
+func TestCountTypes(t *testing.T) {
+	news := api.Type{Name: "News", By: api.ID{Node: 1, Life: 1, Seq: 1}, Chain: []string{"News"}}
+	other := api.Type{Name: "NEWS", Parent: "A", By: api.ID{Node: 2, Life: 3, Seq: 4}, Chain: []string{"NEWS", "A"}}
+	for i, x := range []struct {
+		l    []api.Type
+		want int
+	}{
+		{nil, 0},
+		{[]api.Type{news}, 1},
+		{[]api.Type{news, news, news}, 1},
+		{[]api.Type{news, other}, 1},
+		{[]api.Type{{Name: "Émile.x-1"}, {Name: "ÉMILE.X-1"}, {Name: "emile.x-1"}}, 2},
+		{[]api.Type{{Name: "Ж"}, {Name: "A"}, {Name: "ж"}, {Name: "a"}, {Name: "b"}}, 3},
+		{[]api.Type{news, {Name: "News.Sport"}, {Name: "Sport"}, {Name: "_News"}}, 4},
+	} {
+		before := slices.Clone(x.l)
+		if got := countTypes(x.l); got != x.want {
+			t.Errorf("%d: %d types, not %d", i, got, x.want)
+		}
+		if !slices.EqualFunc(before, x.l, func(a, b api.Type) bool { return a.Name == b.Name }) {
+			t.Errorf("%d: the list was changed", i)
+		}
 	}
 }
 
@@ -162,15 +276,20 @@ func told(h *hermes.Hermes, deeds []api.Deed) string {
 			}
 		}
 	}
-	up, types := 0, 0
-	for _, m := range h.View().L {
-		if m.Up {
-			up++
-			types += len(h.Broker(m.Node).Types())
+	fmt.Fprintf(&out, "up %d epoch %d types %d\n", len(view.Live(h.View())), h.View().Epoch, len(keptTogether(h)))
+	return out.String()
+}
+
+// keptTogether is the types that all brokers keep, one of each name.
+func keptTogether(h *hermes.Hermes) (l []api.Type) {
+	for node := 1; node <= api.MaxNode; node++ {
+		for _, x := range h.Broker(node).Types() {
+			if !slices.ContainsFunc(l, func(y api.Type) bool { return name.Same(x.Name, y.Name) }) {
+				l = append(l, x)
+			}
 		}
 	}
-	fmt.Fprintf(&out, "up %d epoch %d types %d\n", up, h.View().Epoch, types)
-	return out.String()
+	return l
 }
 
 // read is the deed of a line that has one.
